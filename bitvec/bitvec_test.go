@@ -118,16 +118,16 @@ func same(t *testing.T, v *bitvec.Vector, model []bool, from, to int) {
 	if got := slices.Collect(v.Ones()); !slices.Equal(got, ones) {
 		t.Fatalf("Ones: %d, not %d", got, ones)
 	}
-	if v.Count(-3, from)+v.Count(from, to)+v.Count(to, 999) != len(ones) && from <= to {
+	if v.Count(-3, from)+v.Count(from, to)+v.Count(to, v.Len()+9) != len(ones) && from <= to {
 		t.Fatal("counts do not add up")
 	}
 }
 
 func TestAgainstModel(t *testing.T) {
 	r := rand.New(rand.NewSource(16))
-	for _, n := range []int{1, 63, 64, 65, 200} {
+	for n, steps := range map[int]int{1: 500, 63: 1500, 64: 1500, 65: 1500, 200: 1500, 13000: 60} {
 		v, model := vector(t, n), make([]bool, n)
-		for range 1500 {
+		for range steps {
 			i, from, to := r.Intn(n), r.Intn(n+6)-3, r.Intn(n+6)-3
 			changed := 0
 			each := func(to64 bool) {
@@ -161,6 +161,38 @@ func TestAgainstModel(t *testing.T) {
 				}
 			}
 			same(t, v, model, from, to)
+		}
+	}
+}
+
+// TestLongRangesOfZeros has few ones among the bits of the greatest vector.
+func TestLongRangesOfZeros(t *testing.T) {
+	v := vector(t, api.MaxBits)
+	ones := []int{0, 63, 64, 4095, 4096, 8191, 300000, 4096 * 64, 4096*64 + 1, api.MaxBits - 1}
+	slices.Sort(ones)
+	for _, i := range ones {
+		v.Set(i)
+	}
+	for round := range 2 {
+		for k, i := range ones {
+			after, before := 0, 0
+			if k+1 < len(ones) {
+				after = ones[k+1]
+			}
+			if k > 0 {
+				before = ones[k-1]
+			}
+			next, ok1 := v.Next(i + 1)
+			last, ok2 := v.Last(i)
+			if next != after || ok1 != (k+1 < len(ones)) || last != before || ok2 != (k > 0) {
+				t.Errorf("after %d: %d, before it: %d", i, next, last)
+			}
+		}
+		if round == 0 {
+			v.Wipe(64, 300001)
+			v.Set(5000)
+			v.Clear(5000)
+			ones = []int{0, 63, api.MaxBits - 1}
 		}
 	}
 }
