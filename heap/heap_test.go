@@ -464,7 +464,8 @@ func TestFrames(t *testing.T) {
 			return got.Code
 		}
 		kept := 1 + r.Intn(6)
-		for i := 0; do(api.Op{Kind: api.OpAlloc, A: 1, Header: api.Header{Pointers: 1, Words: r.Intn(5)}}) == api.OK; i++ {
+		for i := 0; h.Stats().Used+8 < c.Words; i++ {
+			do(api.Op{Kind: api.OpAlloc, A: 1, Header: api.Header{Pointers: 1, Words: r.Intn(5)}})
 			if i%kept == 0 {
 				do(api.Op{Kind: api.OpStore, A: 1, B: 0})
 				do(api.Op{Kind: api.OpCopy, A: 0, B: 1})
