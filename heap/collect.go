@@ -42,10 +42,12 @@ func (h *Heap) Alloc(slot int, x api.Header) api.Errno {
 	return api.OK
 }
 
-// keepFrames moves blocks of the open cycle until an allocation leaves as many frames as the cycle may need.
+// keepFrames moves blocks of the open cycle until an allocation leaves as many frames as the cycle may need: those
+// of the blocks moved ahead and of the block that is being moved, and those of pages that are full at neither end.
 func (h *Heap) keepFrames(size int) {
 	page, top := h.conf.Page, h.region.Top()
-	needed := (top+size-1)/page - top/page + 1 + (h.conf.Ahead+1)*blockFrames(h.conf)
+	pages := (top+size-1)/page - top/page + 1
+	needed := pages + (h.conf.Ahead+1)*blockFrames(h.conf) + partFrames
 	for h.cycle != nil && h.memory.Room()-h.memory.Used() < needed {
 		if !h.Step() {
 			return
