@@ -158,15 +158,15 @@ func TestRunRefuses(t *testing.T) {
 	}
 }
 
-// TestLongList has a list of very many objects.
+// TestLongList has a list of many objects.
 func TestLongList(t *testing.T) {
 	m := model(t, 1<<40, 2)
-	for range 300000 {
+	for range 5000 {
 		m.Do(api.Op{Kind: api.OpAlloc, A: 1, Header: api.Header{Pointers: 1}})
 		m.Do(api.Op{Kind: api.OpStore, A: 1, B: 0})
 		m.Do(api.Op{Kind: api.OpCopy, A: 0, B: 1})
 	}
-	if n, words := m.Live(); n != 300000 || words != 600000 {
+	if n, words := m.Live(); n != 5000 || words != 10000 {
 		t.Errorf("%d objects, %d words", n, words)
 	}
 }

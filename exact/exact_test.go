@@ -226,17 +226,11 @@ func TestManySteps(t *testing.T) {
 	}
 	s = exact.New()
 	s.Add(3)
-	for range 40 {
+	for range 20 {
 		s.Merge(s)
 	}
-	if s.Whole() != 3*p(40) || s.Count() != 1<<40 {
+	if s.Whole() != 3*p(20) || s.Count() != 1<<20 {
 		t.Error("a sum merged into itself")
-	}
-	for range 1500 {
-		s.Merge(s)
-	}
-	if float.Bits(s.Whole()) != inf || s.Count() <= 0 {
-		t.Error("a sum merged into itself very often")
 	}
 }
 

@@ -194,17 +194,3 @@ func TestAgainstModel(t *testing.T) {
 		}
 	}
 }
-
-// TestRing makes a list whose last node is followed by its first one: every call ends.
-func TestRing(t *testing.T) {
-	h := newHeap(t, api.Sliding, 64)
-	l := newList(t, h)
-	l.Push(1, 1)
-	l.Push(2, 2)
-	h.Load(2, 1, 0)
-	h.Store(2, 0, 1)
-	l.Len()
-	l.At(50)
-	l.Turn()
-	l.Pop()
-}

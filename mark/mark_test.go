@@ -66,11 +66,12 @@ func TestArguments(t *testing.T) {
 			t.Errorf("room %d: error %d", room, e)
 		}
 	}
-	if _, e := mark.Run(nil, []int{5}, out, 1); e != api.ErrLost || out.Objects() != 0 {
-		t.Errorf("no space: error %d", e)
+	var none *vmem.Memory
+	if _, e := mark.Run(none, []int{5}, out, 1); e != api.ErrLost || out.Objects() != 0 {
+		t.Errorf("no memory: error %d", e)
 	}
-	if s, e := mark.Run(nil, []int{0}, out, 1); s != (mark.Stats{Rounds: 1}) || e != api.OK {
-		t.Errorf("no space is needed: error %d", e)
+	if s, e := mark.Run(none, []int{0}, out, 1); s != (mark.Stats{Rounds: 1}) || e != api.OK {
+		t.Errorf("no memory is needed: error %d", e)
 	}
 }
 
@@ -81,7 +82,7 @@ func TestMarking(t *testing.T) {
 	put(t, m, 30, 10, 20)
 	put(t, m, 40, 10)
 	put(t, m, 50)
-	s, e := mark.Run(m, []int{0, 10, 50, 10}, out, 9)
+	s, e := mark.Run(m, []int{0, 10, 50, 10}, out, words)
 	if e != api.OK || s != (mark.Stats{Objects: 4, Words: 5 + 3 + 4 + 2, Rounds: 1, Visits: 4}) {
 		t.Errorf("%v, error %d", s, e)
 	}
@@ -148,20 +149,23 @@ func TestWordsThatAreNotMapped(t *testing.T) {
 	}
 }
 
-func TestLostValues(t *testing.T) {
+// TestSmallStack marks an object with many pointers to objects that have pointers, with stacks of all sizes.
+func TestSmallStack(t *testing.T) {
 	m, out := memory(t), extents(t, words)
-	put(t, m, 10, 20, 30, 40)
-	put(t, m, 20)
-	put(t, m, 30, 50)
-	put(t, m, 40)
-	put(t, m, 50)
-	s, e := mark.Run(m, []int{10}, out, 1)
-	if e != api.OK || s.Objects != 5 || s.Rounds < 2 || s.Visits <= s.Objects {
-		t.Errorf("%v, error %d", s, e)
+	var children []int
+	for a := 100; a < 600; a += 20 {
+		put(t, m, a, a+5, a+10, 10)
+		put(t, m, a+5, a+10)
+		put(t, m, a+10)
+		children = append(children, a)
 	}
-	s, e = mark.Run(m, []int{10}, out, 3)
-	if e != api.OK || s.Objects != 5 || s.Rounds != 1 || s.Visits != 5 {
-		t.Errorf("%v, error %d", s, e)
+	put(t, m, 10, children...)
+	n := 1 + 3*len(children)
+	for room := 1; room < 90; room++ {
+		s, e := mark.Run(m, []int{10}, out, room)
+		if e != api.OK || s.Objects != n || out.Objects() != n || s.Visits < n || s.Visits > n*s.Rounds {
+			t.Errorf("room %d: %v, error %d", room, s, e)
+		}
 	}
 }
 

@@ -10,7 +10,6 @@ import (
 	"ullage/float"
 	"ullage/header"
 	"ullage/object"
-	"ullage/trap"
 	"ullage/vmem"
 )
 
@@ -229,13 +228,11 @@ func TestCopy(t *testing.T) {
 	}
 }
 
-func TestNoSpace(t *testing.T) {
-	var none *vmem.Memory
-	for _, m := range []trap.Space{nil, none} {
-		_, e1 := object.Read(m, 1)
-		_, e2 := object.Word(m, 1, 0)
-		if e1 != api.ErrNil || e2 != api.ErrNil || object.Make(m, 1, shape) != api.ErrNil || object.SetWord(m, 1, 0, 0) != api.ErrNil || object.Copy(m, 1, 2) != api.ErrNil {
-			t.Error("errors")
-		}
+func TestNoMemory(t *testing.T) {
+	var m *vmem.Memory
+	_, e1 := object.Read(m, 1)
+	_, e2 := object.Word(m, 1, 0)
+	if e1 != api.ErrNil || e2 != api.ErrNil || object.Make(m, 1, shape) != api.ErrNil || object.SetWord(m, 1, 0, 0) != api.ErrNil || object.Copy(m, 1, 2) != api.ErrNil {
+		t.Error("errors")
 	}
 }

@@ -201,18 +201,3 @@ func TestManyNodes(t *testing.T) {
 		}
 	}
 }
-
-// TestRing makes a node its own child: every call ends.
-func TestRing(t *testing.T) {
-	h := newHeap(t, api.Sliding, 64)
-	q := newQueue(t, h)
-	q.Push(5, 1)
-	q.Push(3, 1)
-	h.Store(1, 0, 1)
-	h.Store(1, 1, 1)
-	q.Push(1, 1)
-	q.Len()
-	q.Pop()
-	q.Pop()
-	q.Pop()
-}

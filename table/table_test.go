@@ -201,17 +201,3 @@ func TestAgainstModel(t *testing.T) {
 		}
 	}
 }
-
-// TestRing makes an entry its own successor: every call ends.
-func TestRing(t *testing.T) {
-	h := newHeap(t, api.Sliding, 64)
-	x := newTable(t, h)
-	x.Put(8, 1)
-	h.Load(2, 1, 0)
-	h.Store(2, 0, 2)
-	x.Get(16)
-	x.Put(16, 1)
-	x.Sum()
-	x.Len()
-	x.Drop(8)
-}

@@ -80,15 +80,12 @@ func TestRunIsStopped(t *testing.T) {
 		f    func(w *trap.Work)
 		want api.Fault
 	}{
-		"load":             {func(w *trap.Work) { w.Load(-3) }, api.Fault{Err: api.ErrRange, At: -3}},
-		"store":            {func(w *trap.Work) { w.Store(3, 1) }, api.Fault{Err: api.ErrRange, At: 3}},
-		"store, no load":   {func(w *trap.Work) { w.Store(2, 1) }, api.Fault{Err: api.ErrUnmapped, At: 2}},
-		"fail":             {func(w *trap.Work) { w.Fail(api.ErrLost, 77) }, api.Fault{Err: api.ErrLost, At: 77}},
-		"fail with OK":     {func(w *trap.Work) { w.Fail(api.OK, 5) }, api.Fault{At: 5}},
-		"fail with -1":     {func(w *trap.Work) { w.Fail(-1, math.MinInt) }, api.Fault{Err: -1, At: math.MinInt}},
-		"recovered by f":   {func(w *trap.Work) { caught(func() { w.Load(9) }) }, api.Fault{Err: api.ErrRange, At: 9}},
-		"goes on after it": {func(w *trap.Work) { caught(func() { w.Load(9) }); w.Store(0, 50); t.Error("goes on") }, api.Fault{Err: api.ErrRange, At: 9}},
-		"thrown again":     {func(w *trap.Work) { x := caught(func() { w.Load(9) }); panic(x) }, api.Fault{Err: api.ErrRange, At: 9}},
+		"load":           {func(w *trap.Work) { w.Load(-3) }, api.Fault{Err: api.ErrRange, At: -3}},
+		"store":          {func(w *trap.Work) { w.Store(3, 1) }, api.Fault{Err: api.ErrRange, At: 3}},
+		"store, no load": {func(w *trap.Work) { w.Store(2, 1) }, api.Fault{Err: api.ErrUnmapped, At: 2}},
+		"fail":           {func(w *trap.Work) { w.Fail(api.ErrLost, 77) }, api.Fault{Err: api.ErrLost, At: 77}},
+		"fail with OK":   {func(w *trap.Work) { w.Fail(api.OK, 5) }, api.Fault{At: 5}},
+		"fail with -1":   {func(w *trap.Work) { w.Fail(-1, math.MinInt) }, api.Fault{Err: -1, At: math.MinInt}},
 	} {
 		m := newMemory(3)
 		m.frozen = 2
@@ -105,7 +102,7 @@ func TestRunIsStopped(t *testing.T) {
 		if got := trap.Run(m, work); got != c.want {
 			t.Errorf("%s: fault %v", name, got)
 		}
-		if after && name != "recovered by f" {
+		if after {
 			t.Errorf("%s: the function continues", name)
 		}
 		m.is(t, 100, 101, 102)
@@ -161,22 +158,23 @@ func TestOtherPanicsContinue(t *testing.T) {
 	m.is(t, 100, 101)
 }
 
-// TestThrownStop throws what was caught when the work was stopped: then it is not stopped.
-func TestThrownStop(t *testing.T) {
+// TestThrownFault throws a fault: the work is not stopped by it.
+func TestThrownFault(t *testing.T) {
 	m := newMemory(1)
-	var stop any
-	fault, x := trap.Guard(m, func(w *trap.Work) {
-		w.Store(0, 5)
-		stop = caught(func() { w.Load(9) })
-		w.Throw(stop)
-	})
-	if fault != (api.Fault{}) || x == nil || x != stop {
-		t.Errorf("%v, %v", fault, x)
-	}
-	m.is(t, 100)
-	fault, x = trap.Guard(m, func(w *trap.Work) { panic(stop) })
-	if fault != (api.Fault{}) || x != stop {
-		t.Errorf("a stop of work that ended: %v, %v", fault, x)
+	mine := api.Fault{Err: api.ErrRange, At: 9}
+	for name, throw := range map[string]func(w *trap.Work){
+		"Throw": func(w *trap.Work) { w.Throw(mine) },
+		"panic": func(w *trap.Work) { panic(mine) },
+		"errno": func(w *trap.Work) { w.Throw(api.ErrRange) },
+	} {
+		fault, x := trap.Guard(m, func(w *trap.Work) {
+			w.Store(0, 5)
+			throw(w)
+		})
+		if fault != (api.Fault{}) || x != mine && x != api.ErrRange {
+			t.Errorf("%s: %v, %v", name, fault, x)
+		}
+		m.is(t, 100)
 	}
 }
 
@@ -274,7 +272,7 @@ func TestNested(t *testing.T) {
 	}
 }
 
-func TestNilAndEnded(t *testing.T) {
+func TestNil(t *testing.T) {
 	var w *trap.Work
 	w.Store(0, 1)
 	w.Fail(1, 1)
@@ -284,26 +282,6 @@ func TestNilAndEnded(t *testing.T) {
 	if w.Load(0) != 0 || w.Stores() != 0 || fault != (api.Fault{Err: api.ErrNil}) || called {
 		t.Error("nil Work")
 	}
-	m := newMemory(1)
-	if fault := trap.Run(nil, func(w *trap.Work) { w.Load(3) }); fault != (api.Fault{Err: api.ErrNil, At: 3}) {
-		t.Errorf("no space: %v", fault)
-	}
-	if fault := trap.Run(nil, func(w *trap.Work) { w.Store(4, 1) }); fault != (api.Fault{Err: api.ErrNil, At: 4}) {
-		t.Errorf("no space: %v", fault)
-	}
-	if fault, x := trap.Guard(m, nil); fault.Err != api.ErrNil || x != nil {
-		t.Error("no function")
-	}
-	trap.Run(m, func(v *trap.Work) { w = v })
-	if w.Load(0) != 100 || w.Load(9) != 0 {
-		t.Error("Load of work that has ended")
-	}
-	w.Store(9, 1)
-	w.Fail(1, 1)
-	if fault := w.Part(func(w *trap.Work) { w.Store(0, 1); w.Load(9) }); fault != (api.Fault{Err: api.ErrRange, At: 9}) {
-		t.Errorf("Part of work that has ended: %v", fault)
-	}
-	m.is(t, 100)
 }
 
 // TestAgainstModel runs random nested parts that stop, panic or return, and compares with copies of the memory.

@@ -196,19 +196,3 @@ func TestAgainstModel(t *testing.T) {
 		}
 	}
 }
-
-// TestRing makes a node its own subtree: every call ends.
-func TestRing(t *testing.T) {
-	h := newHeap(t, api.Sliding, 64)
-	x := newTree(t, h)
-	x.Put(5, 1)
-	x.Put(3, 1)
-	h.Store(1, 0, 1)
-	h.Store(1, 1, 1)
-	x.Get(1)
-	x.Next(9)
-	x.Put(9, 1)
-	x.Len()
-	x.Drop(5)
-	x.Drop(5)
-}

@@ -136,11 +136,11 @@ func TestSizesAddUp(t *testing.T) {
 	}
 }
 
-func TestNoSpace(t *testing.T) {
-	if l, e := walk.All(nil, 1, 2); l != nil || e != api.ErrNil {
+func TestNoMemory(t *testing.T) {
+	var m *vmem.Memory
+	if l, e := walk.All(m, 1, 2); l != nil || e != api.ErrNil {
 		t.Error("All")
 	}
-	var m *vmem.Memory
 	if l, e := walk.Pointers(m, 1, 2); l != nil || e != api.ErrNil || walk.Whole(m, 1, 2, nil) != api.ErrNil {
 		t.Error("Pointers and Whole")
 	}
