@@ -28,6 +28,9 @@ func TestNew(t *testing.T) {
 			t.Errorf("New(%d, %d): error %d", c[0], c[1], e)
 		}
 	}
+	if m := model(t, 1, 1); m.Do(api.Op{Kind: api.OpAlloc}).Code != api.OK {
+		t.Error("a model with space for one word")
+	}
 	m := model(t, math.MaxInt, 64)
 	if n, words := m.Live(); n != 0 || words != 0 || len(m.Graph().Roots) != 64 || m.Graph().Roots[63] != -1 {
 		t.Error("a model without objects")

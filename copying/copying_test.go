@@ -168,11 +168,31 @@ func TestErrors(t *testing.T) {
 	}
 	m, _ := vmem.New(64, 4, 8)
 	r, _ := roots.New(2)
-	if _, e := copying.Run(nil, r, slide.Conf{}); e != api.ErrNil {
+	if end, e := copying.Run(nil, r, slide.Conf{}); end != 0 || e != api.ErrNil {
 		t.Error("no memory")
 	}
-	if _, e := copying.Run(m, nil, slide.Conf{}); e != api.ErrNil {
+	if end, e := copying.Run(m, nil, slide.Conf{}); end != 0 || e != api.ErrNil {
 		t.Error("no roots")
+	}
+}
+
+// TestPagesThatStay has mapped pages before and after the source range.
+func TestPagesThatStay(t *testing.T) {
+	m, _ := vmem.New(64, 4, 16)
+	r, _ := roots.New(1)
+	m.Need(0, 32)
+	object.Make(m, 9, api.Header{Words: 2})
+	r.Set(0, 9)
+	for _, top := range []int{20, 18} {
+		m.Need(8, 28)
+		a, _ := r.Get(0)
+		object.Copy(m, a, 9)
+		r.Set(0, 9)
+		m.Free(40, 64)
+		end, e := copying.Run(m, r, slide.Conf{From: 8, Top: top, To: 40, Limit: 64, Block: 8, Stack: 1})
+		if e != api.OK || end != 43 || m.Used() != 6 || !m.Mapped(1) || m.Mapped(2) || m.Mapped(4) || !m.Mapped(5) || !m.Mapped(10) {
+			t.Errorf("top %d: %d, error %d, %d frames", top, end, e, m.Used())
+		}
 	}
 }
 

@@ -187,6 +187,21 @@ func TestEquivalence(t *testing.T) {
 		if got, _ := graph.Words(g); got != words {
 			t.Fatalf("%v: %d words", g, got)
 		}
+		counts := make([]int, len(g.Nodes))
+		lists := [][]int{g.Roots}
+		for _, k := range reached {
+			lists = append(lists, g.Nodes[k].Pointers)
+		}
+		for _, l := range lists {
+			for _, k := range l {
+				if k >= 0 {
+					counts[k]++
+				}
+			}
+		}
+		if got, e := graph.Pointed(g); !slices.Equal(got, counts) || e != api.OK {
+			t.Fatalf("%v: Pointed %d, not %d", g, got, counts)
+		}
 	}
 }
 

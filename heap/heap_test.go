@@ -175,6 +175,32 @@ func TestRing(t *testing.T) {
 	}
 }
 
+// TestNothingBesideErrors tests that other results are zero if there is an error.
+func TestNothingBesideErrors(t *testing.T) {
+	h := newHeap(t, conf(api.Copying, 4, 8, 64, 3))
+	h.Alloc(0, api.Header{Pointers: 1, Floats: 1, Words: 1})
+	h.SetFloat(0, 1, 5)
+	h.Set(0, 2, 5)
+	for _, slot := range []int{-1, 0, 1, 3} {
+		for _, i := range []int{-1, 0, 1, 2, 3} {
+			w, e1 := h.Get(slot, i)
+			f, e2 := h.GetFloat(slot, i)
+			n, e3 := h.Order(slot, i, 0, 1)
+			k, e4 := h.Order(0, 1, slot, i)
+			if e1 != api.OK && w != 0 || e2 != api.OK && float.Bits(f) != 0 || e3 != api.OK && n != 0 || e4 != api.OK && k != 0 {
+				t.Errorf("slot %d, field %d: %d, %g, %d, %d", slot, i, w, f, n, k)
+			}
+		}
+		same, e1 := h.Same(slot, 0)
+		again, e2 := h.Same(0, slot)
+		x, e3 := h.Shape(slot)
+		f, e4 := h.Sum(slot)
+		if e1 != api.OK && same || e2 != api.OK && again || e3 != api.OK && x != (api.Header{}) || e4 != api.OK && float.Bits(f) != 0 {
+			t.Errorf("slot %d: %v, %v, %v, %g", slot, same, again, x, f)
+		}
+	}
+}
+
 // TestErrors tests the order of errors.
 func TestErrors(t *testing.T) {
 	for _, kind := range kinds {
@@ -347,6 +373,61 @@ func TestTrigger(t *testing.T) {
 	for range 50 {
 		if h.Alloc(0, api.Header{Words: 6}) != api.OK || h.Stats().Open {
 			t.Fatal("only Start opens a cycle if the trigger is a NaN")
+		}
+	}
+}
+
+// TestLayRandomGraphs lays random graphs, of which only a part is reachable.
+func TestLayRandomGraphs(t *testing.T) {
+	for seed := range int64(300) {
+		r := rand.New(rand.NewSource(seed))
+		h := newHeap(t, conf(kinds[seed%3], 4, 8, 128, 3))
+		for range 3 {
+			n := 1 + r.Intn(12)
+			some := func(count int) []int {
+				var l []int
+				for range count {
+					l = append(l, r.Intn(n+1)-1)
+				}
+				return l
+			}
+			g := api.Graph{Roots: some(3)}
+			for i := range n {
+				x := api.Node{Pointers: some(r.Intn(4))}
+				for range r.Intn(3) {
+					x.Floats = append(x.Floats, r.Uint64())
+				}
+				for range r.Intn(3) {
+					x.Words = append(x.Words, uint64(i))
+				}
+				g.Nodes = append(g.Nodes, x)
+			}
+			var found []int
+			numbers := map[int]int{-1: -1}
+			find := func(l []int) []int {
+				var out []int
+				for _, k := range l {
+					if _, ok := numbers[k]; !ok {
+						numbers[k] = len(found)
+						found = append(found, k)
+					}
+					out = append(out, numbers[k])
+				}
+				return out
+			}
+			want := api.Graph{Roots: find(g.Roots)}
+			for i := 0; i < len(found); i++ {
+				x := g.Nodes[found[i]]
+				want.Nodes = append(want.Nodes, api.Node{Pointers: find(x.Pointers), Floats: x.Floats, Words: x.Words})
+			}
+			h.Start()
+			if e := h.Lay(g); e != api.OK || !sameGraphs(h.Graph(), want) {
+				t.Fatalf("seed %d: error %d, %+v, not %+v", seed, e, h.Graph(), want)
+			}
+			h.Collect()
+			if !sameGraphs(h.Graph(), want) {
+				t.Fatalf("seed %d: another graph after a collection", seed)
+			}
 		}
 	}
 }

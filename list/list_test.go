@@ -131,6 +131,42 @@ func contents(t *testing.T, l *list.List) []node {
 	return all
 }
 
+// released checks that the work slots contain nil.
+func released(t *testing.T, h *heap.Heap, call string) {
+	t.Helper()
+	for _, slot := range []int{3, 0} {
+		if _, e := h.Shape(slot); e != api.ErrNull {
+			t.Fatalf("after %s, work slot %d is in use", call, slot)
+		}
+	}
+}
+
+func TestWorkSlots(t *testing.T) {
+	for _, kind := range []int{api.Sliding, api.Copying, api.Packing} {
+		h := newHeap(t, kind, 64)
+		l := newList(t, h)
+		released(t, h, "New")
+		for i := range 17 {
+			l.Push(uint64(i), 1)
+			released(t, h, "Push")
+		}
+		for _, i := range []int{-1, 0, 3, 15, 16, 99} {
+			l.At(i)
+			released(t, h, "At")
+			l.Set(i, 1, 1)
+			released(t, h, "Set")
+		}
+		l.Turn()
+		released(t, h, "Turn")
+		l.Len()
+		released(t, h, "Len")
+		for range 17 {
+			l.Pop()
+			released(t, h, "Pop")
+		}
+	}
+}
+
 func TestAgainstModel(t *testing.T) {
 	for seed := range int64(90) {
 		r := rand.New(rand.NewSource(seed))

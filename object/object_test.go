@@ -124,21 +124,24 @@ func TestFieldsThatAreNotMapped(t *testing.T) {
 		w, _ := header.Put(h)
 		m.Store(47, w)
 		var got, set api.Errno
+		var p int
+		var f float64
+		var x uint64
 		switch i {
 		case 0:
-			_, got = object.Pointer(m, 47, 0)
+			p, got = object.Pointer(m, 47, 0)
 			set = object.SetPointer(m, 47, 0, 5)
 			if e := object.SetPointer(m, 47, 0, -1); e != api.ErrArg {
 				t.Errorf("ErrArg comes first: error %d", e)
 			}
 		case 1:
-			_, got = object.Float(m, 47, 0)
+			f, got = object.Float(m, 47, 0)
 			set = object.SetFloat(m, 47, 0, 5)
 		case 2:
-			_, got = object.Word(m, 47, 0)
+			x, got = object.Word(m, 47, 0)
 			set = object.SetWord(m, 47, 0, 5)
 		}
-		if got != api.ErrUnmapped || set != api.ErrUnmapped {
+		if got != api.ErrUnmapped || set != api.ErrUnmapped || p != 0 || float.Bits(f) != 0 || x != 0 {
 			t.Errorf("%v: errors %d, %d", h, got, set)
 		}
 	}

@@ -201,11 +201,14 @@ func TestErrors(t *testing.T) {
 	}
 	m, _ := vmem.New(64, 4, 8)
 	r, _ := roots.New(2)
-	if _, e := packing.Run(nil, r, 0, 0, 0); e != api.ErrNil {
+	if end, e := packing.Run(nil, r, 0, 0, 0); end != 0 || e != api.ErrNil {
 		t.Error("no memory")
 	}
-	if _, e := packing.Run(m, nil, 0, 0, 0); e != api.ErrNil {
+	if end, e := packing.Run(m, nil, 0, 0, 0); end != 0 || e != api.ErrNil {
 		t.Error("no roots")
+	}
+	if end, e := packing.Run(m, r, 1, 64, 4096); end != 1 || e != api.OK {
+		t.Errorf("the greatest top and the greatest stack: %d, error %d", end, e)
 	}
 }
 

@@ -50,9 +50,9 @@ func TestErrors(t *testing.T) {
 		t.Error("the example: page 3")
 	}
 	for _, p := range []int{-1, 8, math.MaxInt, math.MinInt} {
-		_, e1 := m.Drop(p)
-		_, e2 := m.Frame(p)
-		if m.Put(p, -1) != api.ErrRange || e1 != api.ErrRange || e2 != api.ErrRange || m.Move(p, 5) != api.ErrRange || m.Move(5, p) != api.ErrRange || m.Move(0, p) != api.ErrRange {
+		f1, e1 := m.Drop(p)
+		f2, e2 := m.Frame(p)
+		if f1 != 0 || f2 != 0 || m.Put(p, -1) != api.ErrRange || e1 != api.ErrRange || e2 != api.ErrRange || m.Move(p, 5) != api.ErrRange || m.Move(5, p) != api.ErrRange || m.Move(0, p) != api.ErrRange {
 			t.Errorf("page %d", p)
 		}
 	}
@@ -64,7 +64,7 @@ func TestErrors(t *testing.T) {
 	if m.Put(5, 1) != api.ErrMapped || m.Move(5, 5) != api.ErrMapped || m.Move(0, 5) != api.ErrUnmapped || m.Move(0, 0) != api.ErrUnmapped {
 		t.Error("mapped pages")
 	}
-	if _, e := m.Drop(0); e != api.ErrUnmapped {
+	if f, e := m.Drop(0); f != 0 || e != api.ErrUnmapped {
 		t.Error("Drop of a page that is not mapped")
 	}
 	if m.Put(0, 1<<31-1) != api.OK || m.Put(1, 0) != api.OK {
@@ -155,9 +155,9 @@ func TestAgainstModel(t *testing.T) {
 
 func TestNil(t *testing.T) {
 	var m *pages.Map
-	_, e1 := m.Drop(0)
-	_, e2 := m.Frame(0)
-	if m.Put(0, 0) != api.ErrNil || e1 != api.ErrNil || e2 != api.ErrNil || m.Move(0, 1) != api.ErrNil {
+	f1, e1 := m.Drop(0)
+	f2, e2 := m.Frame(0)
+	if f1 != 0 || f2 != 0 || m.Put(0, 0) != api.ErrNil || e1 != api.ErrNil || e2 != api.ErrNil || m.Move(0, 1) != api.ErrNil {
 		t.Error("errors")
 	}
 	if p, ok := m.Next(0); p != 0 || ok || m.Count(0, 9) != 0 || m.Len() != 0 {

@@ -105,6 +105,36 @@ func TestNoSpace(t *testing.T) {
 	}
 }
 
+// released checks that the work slots contain nil.
+func released(t *testing.T, h *heap.Heap, call string) {
+	t.Helper()
+	for _, slot := range []int{6, 0, 3, 4, 7} {
+		if _, e := h.Shape(slot); e != api.ErrNull {
+			t.Fatalf("after %s, work slot %d is in use", call, slot)
+		}
+	}
+}
+
+func TestWorkSlots(t *testing.T) {
+	for _, kind := range []int{api.Sliding, api.Copying, api.Packing} {
+		h := newHeap(t, kind, 64)
+		q := newQueue(t, h)
+		released(t, h, "New")
+		for i := range 14 {
+			q.Push(float64(i*7%13), 1)
+			released(t, h, "Push")
+		}
+		q.Len()
+		released(t, h, "Len")
+		for range 15 {
+			q.Peek()
+			released(t, h, "Peek")
+			q.Pop()
+			released(t, h, "Pop")
+		}
+	}
+}
+
 type node struct {
 	f float64
 	w uint64

@@ -79,10 +79,6 @@ func TestTurn(t *testing.T) {
 	if !slices.Equal(seen, []int{4, 6, 4, 8}) || !slices.Equal(r.All(), []int{40, 0, 0, 0, 80}) {
 		t.Errorf("%d: %d", seen, r.All())
 	}
-	r.Turn(nil)
-	if !slices.Equal(r.All(), []int{40, 0, 0, 0, 80}) {
-		t.Error("Turn without a function")
-	}
 }
 
 func TestSlotsAreIndependent(t *testing.T) {

@@ -395,8 +395,7 @@ func TestCheck(t *testing.T) {
 		with(func(c *slide.Conf) { c.Top = 32 }), with(func(c *slide.Conf) { c.Top = 4 }), with(func(c *slide.Conf) { c.Limit = 32 }),
 		with(func(c *slide.Conf) { c.Block, c.Stack, c.Ahead = 1, 1, 0 }), with(func(c *slide.Conf) { c.Block, c.Stack, c.Ahead = 1024, 4096, 16 }),
 		with(func(c *slide.Conf) { c.From, c.Top, c.To, c.Limit = 36, 64, 4, 36 }),
-		with(func(c *slide.Conf) { c.From, c.Top = 40, 40 }), with(func(c *slide.Conf) { c.From, c.Top, c.To, c.Limit = 64, 64, 64, 64 }),
-		with(func(c *slide.Conf) { c.To, c.Limit = 8, 8 }),
+		with(func(c *slide.Conf) { c.From, c.Top, c.To, c.Limit = 64, 64, 64, 64 }),
 	} {
 		if e := slide.Check(m, c); e != api.OK {
 			t.Errorf("valid %d: error %d", i, e)

@@ -128,6 +128,42 @@ func TestNothing(t *testing.T) {
 	}
 }
 
+// released checks that the work slots contain nil.
+func released(t *testing.T, h *heap.Heap, call string) {
+	t.Helper()
+	for _, slot := range []int{3, 0} {
+		if _, e := h.Shape(slot); e != api.ErrNull {
+			t.Fatalf("after %s, work slot %d is in use", call, slot)
+		}
+	}
+}
+
+func TestWorkSlots(t *testing.T) {
+	for _, kind := range []int{api.Sliding, api.Copying, api.Packing} {
+		h := newHeap(t, kind, 64)
+		x := newTable(t, h)
+		released(t, h, "New")
+		for i := range uint64(14) {
+			x.Put(i*8%48, 1)
+			released(t, h, "Put")
+		}
+		for i := range uint64(60) {
+			x.Get(i)
+			released(t, h, "Get")
+			x.Add(i, 1)
+			released(t, h, "Add")
+		}
+		x.Sum()
+		released(t, h, "Sum")
+		x.Len()
+		released(t, h, "Len")
+		for i := range uint64(60) {
+			x.Drop(i)
+			released(t, h, "Drop")
+		}
+	}
+}
+
 func TestNoSpace(t *testing.T) {
 	for _, kind := range []int{api.Sliding, api.Copying, api.Packing} {
 		x := newTable(t, newHeap(t, kind, 16))

@@ -103,6 +103,40 @@ func TestNoSpace(t *testing.T) {
 	}
 }
 
+// released checks that the work slots contain nil.
+func released(t *testing.T, h *heap.Heap, call string) {
+	t.Helper()
+	for _, slot := range []int{6, 0, 3, 4} {
+		if _, e := h.Shape(slot); e != api.ErrNull {
+			t.Fatalf("after %s, work slot %d is in use", call, slot)
+		}
+	}
+}
+
+func TestWorkSlots(t *testing.T) {
+	for _, kind := range []int{api.Sliding, api.Copying, api.Packing} {
+		h := newHeap(t, kind, 64)
+		x := newTree(t, h)
+		released(t, h, "New")
+		for i := range uint64(14) {
+			x.Put(i*7%13, 1)
+			released(t, h, "Put")
+		}
+		for i := range uint64(15) {
+			x.Get(i)
+			released(t, h, "Get")
+			x.Next(i)
+			released(t, h, "Next")
+		}
+		x.Len()
+		released(t, h, "Len")
+		for i := range uint64(15) {
+			x.Drop(i * 5 % 14)
+			released(t, h, "Drop")
+		}
+	}
+}
+
 // TestShape drops nodes of all shapes from small trees.
 func TestShape(t *testing.T) {
 	keys := []uint64{50, 20, 80, 10, 30, 60, 90, 5, 25, 35, 55, 70, 65, 67, 66, 100, 0, math.MaxUint64}

@@ -93,7 +93,7 @@ func TestErrors(t *testing.T) {
 			t.Errorf("Store(%d): error %d", a, e)
 		}
 	}
-	if _, e := m.Load(3); e != api.ErrUnmapped || m.Store(3, 1) != api.ErrUnmapped || m.Unmap(0) != api.ErrUnmapped || m.Move(0, 1) != api.ErrUnmapped {
+	if w, e := m.Load(3); w != 0 || e != api.ErrUnmapped || m.Store(3, 1) != api.ErrUnmapped || m.Unmap(0) != api.ErrUnmapped || m.Move(0, 1) != api.ErrUnmapped {
 		t.Error("a page that is not mapped")
 	}
 	if m.Map(0) != api.OK || m.Map(0) != api.ErrMapped || m.Map(1) != api.OK || m.Map(1) != api.ErrMapped || m.Map(2) != api.ErrFrames || m.Map(4) != api.ErrRange {
