@@ -234,6 +234,29 @@ func TestManySteps(t *testing.T) {
 	}
 }
 
+func TestMergingZerosAndInfinities(t *testing.T) {
+	for _, c := range []struct {
+		a, b []float64
+		want uint64
+	}{
+		{[]float64{zero}, []float64{zero}, minusZero}, {nil, []float64{zero}, minusZero}, {[]float64{zero}, nil, minusZero}, {nil, nil, 0},
+		{[]float64{zero}, []float64{0}, 0}, {[]float64{0}, []float64{zero}, 0}, {[]float64{1}, []float64{-1, zero}, 0},
+		{[]float64{math.Inf(1)}, []float64{1}, inf}, {[]float64{1}, []float64{math.Inf(-1)}, minusZero | inf}, {[]float64{math.Inf(1)}, []float64{math.Inf(-1)}, nan}, {[]float64{1}, []float64{math.NaN()}, nan},
+	} {
+		s, o := exact.New(), exact.New()
+		for _, f := range c.a {
+			s.Add(f)
+		}
+		for _, f := range c.b {
+			o.Add(f)
+		}
+		s.Merge(o)
+		if got := float.Bits(s.Whole()); got != c.want || s.Count() != len(c.a)+len(c.b) || o.Count() != len(c.b) {
+			t.Errorf("%v and %v: %x, not %x", c.a, c.b, got, c.want)
+		}
+	}
+}
+
 func TestNilAndEmpty(t *testing.T) {
 	var s *exact.Sum
 	s.Add(1)

@@ -65,6 +65,27 @@ func TestExample(t *testing.T) {
 	}
 }
 
+// TestNodes looks at the objects of a list.
+func TestNodes(t *testing.T) {
+	h := newHeap(t, api.Sliding, 64)
+	l := newList(t, h)
+	l.Push(7, float.Of(0xFFF0000000000001))
+	l.Push(8, -2)
+	l.Push(9, 3)
+	l.Pop()
+	g := h.Graph()
+	if !slices.Equal(g.Roots, []int{-1, 0, -1, -1, -1}) || len(g.Nodes) != 2 {
+		t.Fatalf("%+v", g)
+	}
+	first, second := g.Nodes[0], g.Nodes[1]
+	if !slices.Equal(first.Pointers, []int{1}) || !slices.Equal(second.Pointers, []int{-1}) || !slices.Equal(first.Words, []uint64{8}) || !slices.Equal(second.Words, []uint64{7}) {
+		t.Errorf("%+v", g)
+	}
+	if !slices.Equal(first.Floats, []uint64{math.Float64bits(-2)}) || !slices.Equal(second.Floats, []uint64{0xFFF0000000000001}) {
+		t.Errorf("%+v", g)
+	}
+}
+
 func TestNothing(t *testing.T) {
 	var none *list.List
 	none.Turn()

@@ -70,6 +70,27 @@ func TestExample(t *testing.T) {
 	}
 }
 
+// TestNodes looks at the objects of a queue.
+func TestNodes(t *testing.T) {
+	h := newHeap(t, api.Copying, 64)
+	q := newQueue(t, h)
+	for i := range 5 {
+		q.Push(float64(i), uint64(10+i))
+	}
+	q.Pop()
+	g := h.Graph()
+	seen := map[uint64]bool{}
+	for _, x := range g.Nodes {
+		if len(x.Pointers) != 2 || len(x.Floats) != 1 || len(x.Words) != 1 || x.Floats[0] != math.Float64bits(float64(x.Words[0]-10)) {
+			t.Fatalf("node %+v", x)
+		}
+		seen[x.Words[0]] = true
+	}
+	if len(g.Nodes) != 4 || len(seen) != 4 || seen[10] {
+		t.Errorf("%+v", g)
+	}
+}
+
 func TestNothing(t *testing.T) {
 	var none *queue.Queue
 	for _, pop := range []func() (float64, uint64, api.Errno){none.Pop, none.Peek} {

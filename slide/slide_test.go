@@ -456,6 +456,20 @@ func TestOpenRefuses(t *testing.T) {
 	}
 }
 
+// TestJustEnough moves to a destination range that is exactly large enough.
+func TestJustEnough(t *testing.T) {
+	for words, want := range map[int]api.Errno{7: api.OK, 8: api.ErrMemory} {
+		m, _ := vmem.New(64, 4, 16)
+		r, _ := roots.New(1)
+		m.Need(4, 28)
+		object.Make(m, 9, api.Header{Words: words})
+		r.Set(0, 9)
+		if _, e := slide.Open(m, r, slide.Conf{From: 4, Top: 28, To: 40, Limit: 48, Block: 4, Stack: 1}); e != want {
+			t.Errorf("%d words: error %d", words+1, e)
+		}
+	}
+}
+
 func TestNothingReachable(t *testing.T) {
 	m, _ := vmem.New(64, 4, 16)
 	r, _ := roots.New(2)

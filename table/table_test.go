@@ -112,6 +112,35 @@ func TestSums(t *testing.T) {
 	}
 }
 
+// TestRows looks at the objects of a table.
+func TestRows(t *testing.T) {
+	h := newHeap(t, api.Packing, 256)
+	x := newTable(t, h)
+	keys := []uint64{0, 8, 16, 3, math.MaxUint64, 7, 1 << 63, 13, 5}
+	for _, k := range keys {
+		x.Put(k, float64(k))
+	}
+	x.Drop(8)
+	g := h.Graph()
+	directory := g.Nodes[g.Roots[1]]
+	if len(directory.Pointers) != 8 || len(directory.Floats)+len(directory.Words) != 0 {
+		t.Fatalf("directory %+v", directory)
+	}
+	n := 0
+	for row, k := range directory.Pointers {
+		for ; k >= 0; k = g.Nodes[k].Pointers[0] {
+			e := g.Nodes[k]
+			if len(e.Pointers) != 1 || len(e.Floats) != 1 || len(e.Words) != 1 || e.Words[0]&7 != uint64(row) || !slices.Contains(keys, e.Words[0]) || e.Floats[0] != math.Float64bits(float64(e.Words[0])) {
+				t.Fatalf("row %d: %+v", row, e)
+			}
+			n++
+		}
+	}
+	if n != len(keys)-1 || len(g.Nodes) != n+1 {
+		t.Errorf("%d entries, %d objects", n, len(g.Nodes))
+	}
+}
+
 func TestNothing(t *testing.T) {
 	var none *table.Table
 	f, e := none.Get(0)

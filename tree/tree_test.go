@@ -68,6 +68,44 @@ func TestExample(t *testing.T) {
 	}
 }
 
+// bounded checks that all keys from node n on lie from least to most, and returns how many there are.
+func bounded(t *testing.T, g api.Graph, n int, least, most uint64) int {
+	t.Helper()
+	if n < 0 {
+		return 0
+	}
+	x := g.Nodes[n]
+	if len(x.Pointers) != 2 || len(x.Floats) != 1 || len(x.Words) != 1 {
+		t.Fatalf("node %+v", x)
+	}
+	key := x.Words[0]
+	if key < least || key > most || x.Floats[0] != math.Float64bits(float64(key)) {
+		t.Fatalf("key %d is not between %d and %d", key, least, most)
+	}
+	return 1 + bounded(t, g, x.Pointers[0], least, key-1) + bounded(t, g, x.Pointers[1], key+1, most)
+}
+
+// TestNodes looks at the objects of trees.
+func TestNodes(t *testing.T) {
+	r := rand.New(rand.NewSource(41))
+	for range 50 {
+		h := newHeap(t, api.Packing, 256)
+		x := newTree(t, h)
+		for _, k := range r.Perm(30) {
+			x.Put(uint64(k+1), float64(k+1))
+		}
+		for n := 30; n > 0; n-- {
+			g := h.Graph()
+			if len(g.Nodes) != n || bounded(t, g, g.Roots[1], 1, 30) != n {
+				t.Fatalf("%d objects, not %d", len(g.Nodes), n)
+			}
+			for k := uint64(1 + r.Intn(30)); x.Drop(k) != api.OK; {
+				k = k%30 + 1
+			}
+		}
+	}
+}
+
 func TestNothing(t *testing.T) {
 	var none *tree.Tree
 	f, e1 := none.Get(0)
